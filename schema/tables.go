@@ -1,5 +1,7 @@
 package schema
 
+import "strings"
+
 // attributeTable holds the attributes.
 var attributeTable = []Attribute{
 	{"objectClass", "", "2.5.4.0", Object, false},
@@ -24,16 +26,28 @@ var attributeTable = []Attribute{
 	{"weight", "", "1.3.6.1.4.1.99999.2", Real, true},
 }
 
-// classTable holds the classes. Its lists are read only: what is handed out has copies of them.
-var classTable = []Class{
-	{"top", "2.5.6.0", "", Abstract, []string{"objectClass"}, nil},
-	{"country", "2.5.6.2", "top", Structural, []string{"c"}, []string{"description"}},
-	{"organization", "2.5.6.4", "top", Structural, []string{"o"}, []string{"description", "telephoneNumber"}},
-	{"organizationalUnit", "2.5.6.5", "top", Structural, []string{"ou"}, []string{"description", "seeAlso", "telephoneNumber"}},
-	{"person", "2.5.6.6", "top", Structural, []string{"cn", "sn"}, []string{"description", "seeAlso", "telephoneNumber", "userPassword"}},
-	{"inetOrgPerson", "2.16.840.1.113730.3.2.2", "person", Structural, nil, []string{"employeeNumber", "givenName", "mail", "uid"}},
-	{"group", "1.3.6.1.4.1.99999.3.1", "top", Structural, []string{"cn"}, []string{"description", "member", "owner", "seeAlso"}},
-	{"device", "2.5.6.14", "top", Structural, []string{"cn"}, []string{"description", "owner", "serialNumber", "weight"}},
-	{"dcObject", "1.3.6.1.4.1.1466.344", "top", Auxiliary, []string{"dc"}, nil},
-	{"login", "1.3.6.1.4.1.99999.3.2", "top", Auxiliary, nil, []string{"enabled", "uid", "userPassword"}},
+// classRow is a class, each of whose lists is one text with blanks between the names: a copy of a row with slices would share the table's memory.
+type classRow struct {
+	name, oid, super string
+	kind             int
+	must, may        string
+}
+
+// classTable holds the classes.
+var classTable = []classRow{
+	{"top", "2.5.6.0", "", Abstract, "objectClass", ""},
+	{"country", "2.5.6.2", "top", Structural, "c", "description"},
+	{"organization", "2.5.6.4", "top", Structural, "o", "description telephoneNumber"},
+	{"organizationalUnit", "2.5.6.5", "top", Structural, "ou", "description seeAlso telephoneNumber"},
+	{"person", "2.5.6.6", "top", Structural, "cn sn", "description seeAlso telephoneNumber userPassword"},
+	{"inetOrgPerson", "2.16.840.1.113730.3.2.2", "person", Structural, "", "employeeNumber givenName mail uid"},
+	{"group", "1.3.6.1.4.1.99999.3.1", "top", Structural, "cn", "description member owner seeAlso"},
+	{"device", "2.5.6.14", "top", Structural, "cn", "description owner serialNumber weight"},
+	{"dcObject", "1.3.6.1.4.1.1466.344", "top", Auxiliary, "dc", ""},
+	{"login", "1.3.6.1.4.1.99999.3.2", "top", Auxiliary, "", "enabled uid userPassword"},
+}
+
+// class returns the class of a row, with lists in memory of their own.
+func (r classRow) class() Class {
+	return Class{Name: r.name, Oid: r.oid, Super: r.super, Kind: r.kind, Must: strings.Fields(r.must), May: strings.Fields(r.may)}
 }
